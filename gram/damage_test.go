@@ -23,7 +23,7 @@ func checkRefused(t *testing.T, whole string, at int, by uint32) {
 	}
 }
 
-// P9.3: each turn of one byte and of two neighbours, at each place, the sum's too, is refused.
+// P9.3: each turn of one byte, and in the shorter datagrams of two neighbours, at each place, the sum's too, is refused.
 func TestOneByteAndTwoTurned(t *testing.T) {
 	for _, c := range known {
 		whole := c.fields + c.sum
